@@ -605,23 +605,29 @@ func TestNoPackedBytesAreChanged(t *testing.T) {
 	}
 }
 
+// checkNewBytes: the bytes that pack tells of a row share memory with nothing.
+func checkNewBytes(t *testing.T, list []impl.Event, want []byte, pack func(list []impl.Event) []byte) {
+	t.Helper()
+	given := slices.Clone(list)
+	first, second := pack(given), pack(given)
+	for i := range given {
+		given[i] = store(77, 77)
+	}
+	if !bytes.Equal(first, want) {
+		t.Fatalf("the bytes of %v turn with the argument", list)
+	}
+	for i := range first {
+		first[i] ^= 255
+	}
+	_ = append(first, 1, 2, 3)
+	if !bytes.Equal(second, want) || !bytes.Equal(pack(list), want) {
+		t.Fatalf("two answers about %v share memory", list)
+	}
+}
+
 func TestPackedBytesAreNewMemory(t *testing.T) {
 	for _, list := range someSteps() {
-		given, want := slices.Clone(list), packedByHand(list)
-		first, second := mustPack(t, given), mustPack(t, given)
-		for i := range given {
-			given[i] = store(77, 77)
-		}
-		if !bytes.Equal(first, want) {
-			t.Fatalf("the bytes of %v turn with the argument", list)
-		}
-		for i := range first {
-			first[i] ^= 255
-		}
-		_ = append(first, 1, 2, 3)
-		if !bytes.Equal(second, want) || !bytes.Equal(mustPack(t, list), want) {
-			t.Fatalf("two answers of PackSteps(%v) share memory", list)
-		}
+		checkNewBytes(t, list, packedByHand(list), func(list []impl.Event) []byte { return mustPack(t, list) })
 	}
 }
 
